@@ -298,12 +298,11 @@ func (p *trial) anyEvent(t *testing.T, r *rand.Rand) {
 	t.Helper()
 	n := []int{10, 30, 100, 500, 2000, mostOfEvent, mostOfEvent + 1}[r.IntN(7)]
 	e := longEvent(byte(r.IntN(26)), n)
-	free, _ := p.f.Free()
-	switch end := p.logSize() + 16 + n; {
+	switch {
+	case !p.hasRoom(min(n, mostOfEvent)):
+		p.wontTake(t, e, api.ErrFull)
 	case n > mostOfEvent:
 		p.wontTake(t, e, api.ErrBig)
-	case end > most || grows(p.logSize(), end) > free:
-		p.wontTake(t, e, api.ErrFull)
 	default:
 		p.append(t, e)
 	}

@@ -24,6 +24,26 @@ func (p *trial) wontTake(t testing.TB, e api.Event, want api.Err) {
 	p.unchanged(t, was)
 }
 
+// wontTakeLong checks that events that are longer than a record may be are
+// refused: where there is no room even for the longest record, that counts.
+func (p *trial) wontTakeLong(t testing.TB) {
+	t.Helper()
+	want := api.ErrBig
+	if !p.hasRoom(mostOfEvent) {
+		want = api.ErrFull
+	}
+	for _, n := range []int{mostOfEvent + 1, 5000, 1 << 18} {
+		p.wontTake(t, longEvent(7, n), want)
+	}
+}
+
+// hasRoom tells whether there is room for an event of n bytes.
+func (p *trial) hasRoom(n int) bool {
+	free, _ := p.f.Free()
+	end := p.logSize() + 16 + n
+	return end <= most && grows(p.logSize(), end) <= free
+}
+
 // wontStand checks the same of a world.
 func (p *trial) wontStand(t testing.TB, w *api.World, want api.Err) {
 	t.Helper()

@@ -8,8 +8,12 @@ import (
 	"lychgate/fs"
 )
 
-// mostBytes is how long a file may be.
-const mostBytes = api.MaxBlocks * api.Sector
+const (
+	// mostBytes is how long a file may be.
+	mostBytes = api.MaxBlocks * api.Sector
+	// named is how many blocks one block names.
+	named = api.Sector / 4
+)
 
 // with opens the file at path for one call.
 func with(f *fs.FS, path string, call func(fd int) error) error {
@@ -55,6 +59,20 @@ func lay(f *fs.FS, path string, b []byte) error {
 		}
 		return nil
 	})
+}
+
+// blocks tells how many blocks a file of n bytes takes, those that name others
+// included.
+func blocks(n int) int {
+	data := (n + api.Sector - 1) / api.Sector
+	switch {
+	case data > api.Direct+named:
+		// Two name parts, and one more names the second of these.
+		return data + 3
+	case data > api.Direct:
+		return data + 1
+	}
+	return data
 }
 
 // putNumber lets n stand in the first size bytes of b, the lowest first.

@@ -3,6 +3,7 @@ package store_test
 import (
 	"errors"
 	"fmt"
+	"strings"
 	"testing"
 
 	"lychgate/api"
@@ -60,6 +61,28 @@ func (p *trial) logSize() int {
 	return n
 }
 
+// mayTake checks that an event is taken if there is room for it, and else refused.
+func (p *trial) mayTake(t testing.TB, e api.Event) {
+	t.Helper()
+	if p.hasRoom(len(codec.Event(e))) {
+		p.append(t, e)
+	} else {
+		p.wontTake(t, e, api.ErrFull)
+	}
+}
+
+// fillLog appends events until the log has so many bytes.
+func (p *trial) fillLog(t testing.TB, size int) {
+	t.Helper()
+	for rest := size - p.logSize(); rest > 0; rest = size - p.logSize() {
+		n := rest
+		if n > 4096 {
+			n = min(4096, rest-1000)
+		}
+		p.append(t, longEvent(byte(n), n-16))
+	}
+}
+
 // same checks what the store tells, and what another one does, where there are
 // other files, too.
 func (p *trial) same(t testing.TB) {
@@ -93,21 +116,36 @@ func TestAppendToFullDisk(t *testing.T) {
 			p.append(t, longEvent(0, size))
 			fill(t, p.f, left)
 			for k, n := range []int{mostOfEvent, 3000, 1500, 600, 496, 495, 300, 100, 20, 20, 300, mostOfEvent} {
-				free, _ := p.f.Free()
-				if e := longEvent(byte(k), n); grows(p.logSize(), p.logSize()+16+n) > free {
-					p.wontTake(t, e, api.ErrFull)
-				} else {
-					p.append(t, e)
-				}
+				p.mayTake(t, longEvent(byte(k), n))
 				p.same(t)
+				p.wontTakeLong(t)
 			}
-			p.wontTake(t, longEvent(0, mostOfEvent+1), api.ErrBig)
 			p = p.behind(t)
 			// With room there it goes on.
 			unfill(t, p.f)
 			p.append(t, longEvent(1, mostOfEvent))
 			p.snapshot(t, longWorld(1, 9000))
 			p.append(t, longEvent(2, mostOfEvent))
+			p.behind(t)
+		}
+	}
+}
+
+// P11.1: the same of a log that comes to where its file needs two more blocks that
+// name others.
+func TestAppendToFullDiskFurther(t *testing.T) {
+	t.Parallel()
+	for left := range 13 {
+		for _, behind := range []int{-4097, -4096, -1000, -1, 0, 1} {
+			p := newTrial(t, 400)
+			p.crowded = true
+			p.fillLog(t, (8+128)*512+behind)
+			fill(t, p.f, left)
+			p.wontTakeLong(t)
+			for k, n := range []int{mostOfEvent, 3000, 1000, 1000, 496, 495, 20, 20, mostOfEvent} {
+				p.mayTake(t, longEvent(byte(k), n))
+			}
+			p.wontTakeLong(t)
 			p.behind(t)
 		}
 	}
@@ -217,7 +255,7 @@ func TestLongestLog(t *testing.T) {
 			}
 			p.wontTake(t, api.Event{}, api.ErrFull)
 			p.wontTake(t, longEvent(1, mostOfEvent), api.ErrFull)
-			p.wontTake(t, longEvent(1, mostOfEvent+1), api.ErrBig)
+			p.wontTake(t, longEvent(1, mostOfEvent+1), api.ErrFull)
 			p.holds(t)
 			p.sync(t)
 			p = p.crash(t, nil)
@@ -225,6 +263,64 @@ func TestLongestLog(t *testing.T) {
 			p.snapshot(t, longWorld(round, 3000*round+100))
 			p.holds(t)
 		}
+	}
+}
+
+// P11.1, P0.2: an event that is longer than a record may be, where not even the
+// least one has room: on a full disk, and in a journal that is as long as a file
+// may be. With room there it is too big again.
+func TestFullAheadOfBig(t *testing.T) {
+	t.Parallel()
+	for _, sectors := range []int{128, 200, 400, 1000} {
+		p := newTrial(t, sectors)
+		p.crowded = true
+		fillFile(t, p.f, "/other", 12)
+		p.wontTakeLong(t)
+		for n := 1000; n >= 0; {
+			if e := (api.Event{Text: strings.Repeat("x", n)}); p.s.Append(e) == nil {
+				p.all = append(p.all, e)
+			} else {
+				n--
+			}
+		}
+		p.wontTake(t, api.Event{}, api.ErrFull)
+		for _, n := range []int{mostOfEvent, mostOfEvent + 1, mostOfEvent + 9, 5000, most, 1 << 20} {
+			p.wontTake(t, longEvent(1, n), api.ErrFull)
+		}
+		p.holds(t)
+		p.sync(t)
+		p = p.crash(t, nil)
+		p.wontTake(t, longEvent(1, 5000), api.ErrFull)
+		well(t, p.f.Unlink("/other"))
+		p.snapshot(t, nil)
+		for _, n := range []int{mostOfEvent + 1, mostOfEvent + 9, 5000, most, 1 << 20} {
+			p.wontTake(t, longEvent(1, n), api.ErrBig)
+		}
+		p.append(t, longEvent(1, mostOfEvent))
+		p.holds(t)
+	}
+}
+
+// P11.1, P0.2: the same at and beside the lengths of a log at which the longest
+// record is the last one that a file holds.
+func TestFullAheadOfBigAtTheEnd(t *testing.T) {
+	t.Parallel()
+	for more := -3; more <= 3; more++ {
+		p := newTrial(t, 400)
+		p.fillLog(t, most-4096+more)
+		want := api.ErrBig
+		if more > 0 {
+			want = api.ErrFull
+		}
+		p.wontTake(t, longEvent(3, mostOfEvent+1), want)
+		p.wontTake(t, longEvent(3, 1<<18), want)
+		if more > 0 {
+			p.wontTake(t, longEvent(3, mostOfEvent), want)
+		} else {
+			p.append(t, longEvent(3, mostOfEvent))
+		}
+		p.wontTakeLong(t)
+		p.holds(t)
 	}
 }
 
@@ -290,7 +386,7 @@ func TestNoDescriptor(t *testing.T) {
 	}
 	for range 3 {
 		p.wontTake(t, event(1), api.ErrFull)
-		p.wontTake(t, longEvent(1, mostOfEvent+1), api.ErrBig)
+		p.wontTake(t, longEvent(1, mostOfEvent+1), api.ErrFull)
 		p.wontStand(t, world(1), api.ErrFull)
 		p.wontStand(t, longWorld(1, 200000), api.ErrBig)
 		well(t, p.s.Sync())

@@ -60,20 +60,38 @@ func (s *Store) log(b []byte) error {
 	}
 	r := make([]byte, numberSize, numberSize+len(b))
 	putNumber(r, s.Number()+1, numberSize)
-	r, err := journal.Frame(append(r, b...))
-	if err != nil {
-		return err
+	r = append(r, b...)
+	return with(s.files, logPath, func(fd int) error { return s.write(fd, r) })
+}
+
+// write lets a record of r stand at the log's end.
+func (s *Store) write(fd int, r []byte) error {
+	framed, tooBig := journal.Frame(r)
+	n := len(framed)
+	if tooBig != nil {
+		// It would take more than the longest record does.
+		n = api.MaxRecord
 	}
-	// The file system would say ErrBig, but it isn't the event that is too big.
-	if s.logSize+len(r) > mostBytes {
+	// That there is no room counts ahead of tooBig.
+	if !s.hasRoom(n) {
 		return api.ErrFull
 	}
-	err = with(s.files, logPath, func(fd int) error { return s.files.Write(fd, s.logSize, r) })
-	if err != nil {
+	if tooBig != nil {
+		return tooBig
+	}
+	if err := s.files.Write(fd, s.logSize, framed); err != nil {
 		return err
 	}
-	s.logSize += len(r)
+	s.logSize += n
 	return nil
+}
+
+// hasRoom tells whether the log may have n more bytes, and the disk has blocks
+// for them.
+func (s *Store) hasRoom(n int) bool {
+	end := s.logSize + n
+	free, _ := s.files.Free()
+	return end <= mostBytes && blocks(end)-blocks(s.logSize) <= free
 }
 
 // emptyLog lets the log hold no events.
